@@ -150,6 +150,22 @@ func TestParsedLinesReturn(t *testing.T) {
 	}
 }
 
+// P6.2: so is that of each line that has an unusual byte somewhere.
+func TestParsedBytesReturn(t *testing.T) {
+	const line = "Na-m: v \tw"
+	for i := range 256 {
+		for at := range len(line) + 1 {
+			f, e := fields.Parse(line[:at] + string([]byte{byte(i)}) + line[at:])
+			if e != api.OK {
+				continue
+			}
+			if got, e := fields.Parse(strings.TrimSuffix(f.Line(), "\r\n")); got != f || e != api.OK {
+				t.Errorf("%q: %q, error %d", f, got, e)
+			}
+		}
+	}
+}
+
 // P6.1: Get, All and Has, without regard to case.
 func TestAsking(t *testing.T) {
 	for _, c := range []struct {
