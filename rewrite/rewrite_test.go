@@ -350,6 +350,19 @@ func TestOtherResponsesHaveOneReading(t *testing.T) {
 	}
 }
 
+// P12.1, P12.2: lengths of a response without a body stay as they are, and nothing is read from them.
+func TestLengthsWithoutBody(t *testing.T) {
+	for _, lengths := range []fields.Fields{of("Content-Length", "5"), of("content-length", "5", "Content-Length", "6"), of("Content-Length", "x")} {
+		p := response.New(open, "HEAD")
+		p.Feed("HTTP/1.1 200 r\r\n" + lengths.Text() + "\r\n")
+		sent := rewrite.Response(p.Message(), "HEAD", rewrite.Extra{})
+		want := answered(200, framing.None, "")
+		want.Fields = lengths.Add("Via", "1.1 steward")
+		sameResponse(t, sent, want)
+		received(t, sent, "HEAD")
+	}
+}
+
 // Rule 5: fields are left as they are, and so is their spare capacity; those that are returned are new memory.
 func TestArgumentsAreLeft(t *testing.T) {
 	l := of("Connection", "X-A, close", "A", "1", "X-A", "2", "X-Forwarded-For", "a", "Via", "x", "Content-Length", "7", "TE", "t", "spare", "1", "spare", "2", "spare", "3", "spare", "4")
